@@ -74,13 +74,13 @@ func readOrder(up []int) (order, bool) {
 	return o, true
 }
 
-// list returns the sets of the order as numbers.
-func (o order) list() []int {
-	up := make([]int, len(o))
-	for item, above := range o {
-		up[item] = int(above)
+// numbersOf returns sets as numbers.
+func numbersOf(sets []items) []int {
+	numbers := make([]int, len(sets))
+	for i, s := range sets {
+		numbers[i] = int(s)
 	}
-	return up
+	return numbers
 }
 
 // pairs ranges over the pairs of an item and one above it, by the first and then by the second one.
@@ -189,7 +189,7 @@ func OrderOf(n int, pairs [][]int) ([]int, bool) {
 	if !o.isOrder() {
 		return nil, false
 	}
-	return o.list(), true
+	return numbersOf(o), true
 }
 
 // DualOf returns an order turned round.
@@ -198,7 +198,7 @@ func DualOf(up []int) []int {
 	if !ok {
 		return nil
 	}
-	return o.dual().list()
+	return numbersOf(o.dual())
 }
 
 // CoversOf returns the pairs of items next above each other.

@@ -4,6 +4,7 @@ import (
 	"iter"
 	"math"
 	"slices"
+	"testing"
 
 	"loop.example/ordersthatbranch/impl"
 )
@@ -264,6 +265,24 @@ func spoil(list []int) {
 	room := list[:cap(list)]
 	for i := range room {
 		room[i] = mark
+	}
+}
+
+// checkSharesNoMemory writes over a result, and over an argument behind a call:
+// if they shared memory, or the program kept some, the other one would show it.
+func checkSharesNoMemory(t *testing.T, name string, f func([]int) []int, up []int) {
+	t.Helper()
+	want := slices.Clone(f(slices.Clone(up)))
+	list := slices.Clone(up)
+	got := f(list)
+	spoil(list)
+	if !same(got, want) {
+		t.Fatalf("%s(%v) changes with its argument", name, up)
+	}
+	copy(list, up)
+	spoil(got)
+	if !same(list, up) || !same(f(list), want) {
+		t.Fatalf("the argument %v of %s, or a later result for it, changes with the result", up, name)
 	}
 }
 
