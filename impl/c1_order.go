@@ -31,6 +31,11 @@ func (s items) with(item int) items {
 	return s | 1<<item
 }
 
+// without returns the set without the item.
+func (s items) without(item int) items {
+	return s &^ (1 << item)
+}
+
 // within reports whether the other set has all items of the set.
 func (s items) within(other items) bool {
 	return s&^other == 0
@@ -81,6 +86,11 @@ func numbersOf(sets []items) []int {
 		numbers[i] = int(s)
 	}
 	return numbers
+}
+
+// all returns the set of all items.
+func (o order) all() items {
+	return 1<<len(o) - 1
 }
 
 // pairs ranges over the pairs of an item and one above it, by the first and then by the second one.

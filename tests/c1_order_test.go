@@ -523,21 +523,6 @@ func TestOrderOfSharesNoMemory(t *testing.T) {
 
 func TestCoversShareNoMemory(t *testing.T) {
 	for _, up := range goodOrders() {
-		want := cloneRows(impl.CoversOf(up))
-		list := slices.Clone(up)
-		got := impl.CoversOf(list)
-		spoil(list)
-		if !sameRows(got, want) {
-			t.Fatalf("the covers of %v change with it", up)
-		}
-		for i := range got {
-			spoil(got[i])
-			if !sameRows(got[i+1:], want[i+1:]) {
-				t.Fatalf("covers of %v change with the one at %d", up, i)
-			}
-		}
-		if !sameRows(impl.CoversOf(up), want) {
-			t.Fatalf("later covers of %v change with the result", up)
-		}
+		checkRowsShareNoMemory(t, "CoversOf", impl.CoversOf, up)
 	}
 }

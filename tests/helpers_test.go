@@ -286,6 +286,29 @@ func checkSharesNoMemory(t *testing.T, name string, f func([]int) []int, up []in
 	}
 }
 
+// checkRowsShareNoMemory does the same where the result is rows, and with each row against the others.
+func checkRowsShareNoMemory(t *testing.T, name string, f func([]int) [][]int, up []int) {
+	t.Helper()
+	want := cloneRows(f(slices.Clone(up)))
+	list := slices.Clone(up)
+	got := f(list)
+	spoil(list)
+	if !sameRows(got, want) {
+		t.Fatalf("%s(%v) changes with its argument", name, up)
+	}
+	copy(list, up)
+	for i := range got {
+		spoil(got[i])
+		if !same(list, up) || !sameRows(f(list), want) {
+			t.Fatalf("the argument %v of %s, or a later result for it, changes with the row at %d", up, name, i)
+		}
+		copy(got[i], want[i])
+		if !sameRows(got, want) {
+			t.Fatalf("rows of %s(%v) change with the one at %d", name, up, i)
+		}
+	}
+}
+
 // orderOf returns OrderOf n and pairs that are known to make an order.
 func orderOf(n int, pairs ...[]int) []int {
 	up, ok := impl.OrderOf(n, pairs)
