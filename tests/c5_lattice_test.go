@@ -30,17 +30,24 @@ func upwardOrders(n int) [][]int {
 	return all
 }
 
-// mixed returns an order with its items numbered in another way.
-func mixed(up []int) []int {
-	n := len(up)
-	above, r := relationOf(up), newRelation(n)
-	number := func(item int) int { return (n + 2 - item) % n }
+// renumbered returns the order with the items numbered by the list.
+func renumbered(up []int, numbers []int) []int {
+	above, r := relationOf(up), newRelation(len(up))
 	for a := range r {
 		for b := range r {
-			r[number(a)][number(b)] = above[a][b]
+			r[numbers[a]][numbers[b]] = above[a][b]
 		}
 	}
 	return r.sets()
+}
+
+// mixed returns an order with its items numbered in another way.
+func mixed(up []int) []int {
+	numbers := make([]int, len(up))
+	for item := range up {
+		numbers[item] = (len(up) + 2 - item) % len(up)
+	}
+	return renumbered(up, numbers)
 }
 
 // shapedOrders returns goodOrders, and all shapes of five and six items, each in more than one numbering.
