@@ -66,13 +66,13 @@ func (r relation) times(other relation) relation {
 	return all
 }
 
-// hasZigzag reports whether four items, told in any order, have just the relations of a zigzag.
-func (r relation) hasZigzag() bool {
+// hasFour reports whether four items, told in any order, have just the relations of the other four.
+func (r relation) hasFour(other relation) bool {
 	for a := range r {
 		for b := range r {
 			for c := range r {
 				for d := range r {
-					if r.isZigzag([]int{a, b, c, d}) {
+					if r.areLike([]int{a, b, c, d}, other) {
 						return true
 					}
 				}
@@ -82,22 +82,26 @@ func (r relation) hasZigzag() bool {
 	return false
 }
 
-// isZigzag reports whether all relations among the four items are that the second one is above the first and the third one, and the fourth one above the third one.
-func (r relation) isZigzag(four []int) bool {
-	zigzag := [][]bool{
-		{false, true, false, false},
-		{false, false, false, false},
-		{false, true, false, true},
-		{false, false, false, false},
-	}
-	for i := range four {
-		for j := range four {
-			if r[four[i]][four[j]] != zigzag[i][j] || i != j && four[i] == four[j] {
+// areLike reports whether the items, no one of them twice, have just the relations of the other ones.
+func (r relation) areLike(items []int, other relation) bool {
+	for i := range items {
+		for j := range items {
+			if r[items[i]][items[j]] != other[i][j] || i != j && items[i] == items[j] {
 				return false
 			}
 		}
 	}
 	return true
+}
+
+// hasZigzag reports whether four items have just the relations that the second one is above the first and the third one, and the fourth one above the third one.
+func (r relation) hasZigzag() bool {
+	return r.hasFour(relation{
+		{false, true, false, false},
+		{false, false, false, false},
+		{false, true, false, true},
+		{false, false, false, false},
+	})
 }
 
 // takeOff returns the fewest of the members that can be parted from all others, and these others.
