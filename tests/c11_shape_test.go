@@ -79,14 +79,19 @@ var triedOrders = sync.OnceValue(func() [][]int {
 	return append(all, ordersOfFive()...)
 })
 
-// shapesOfFive are orders of five items, one of each shape.
-var shapesOfFive = sync.OnceValue(func() [][]int {
+// shapesOf returns orders of n items, one of each shape.
+func shapesOf(n int) [][]int {
 	var all [][]int
-	for _, up := range upwardOrders(5) {
+	for _, up := range upwardOrders(n) {
 		all = append(all, canonOf(up))
 	}
 	slices.SortFunc(all, slices.Compare)
 	return slices.CompactFunc(all, same)
+}
+
+// shapesOfFive are orders of five items, one of each shape.
+var shapesOfFive = sync.OnceValue(func() [][]int {
+	return shapesOf(5)
 })
 
 // numberedOrder is an order and a numbering of it.
